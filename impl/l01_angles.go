@@ -96,9 +96,8 @@ func HalvesOf(a Angle) ([]Angle, int64) {
 	if !IsAngle(a) {
 		return nil, ErrInvalid
 	}
-	lower, lowerCode := limitedAngle(reducedAngle(a.Num, 2*a.Den))
-	upper, upperCode := limitedAngle(reducedAngle(a.Num+a.Den, 2*a.Den))
-	if lowerCode != ErrNone || upperCode != ErrNone {
+	lower, upper := bothHalves(a)
+	if lower.Den > MaxDen || upper.Den > MaxDen {
 		return nil, ErrLimit
 	}
 	return []Angle{lower, upper}, ErrNone
@@ -158,18 +157,12 @@ func SortAngles(list []Angle) ([]Angle, int64) {
 
 // ExpansionOf returns the expansion of a, and ErrNone.
 func ExpansionOf(a Angle) (Sequence, int64) {
-	orbit, preperiod, code := orbitAndPreperiod(a)
-	if code != ErrNone {
-		return Sequence{}, code
-	}
-	digits := make([]byte, len(orbit))
-	for i, x := range orbit {
-		digits[i] = '0'
+	return sequenceAlongOrbit(a, func(x Angle) byte {
 		if 2*x.Num >= x.Den {
-			digits[i] = '1'
+			return '1'
 		}
-	}
-	return canonicalSequence(string(digits[:preperiod]), string(digits[preperiod:])), ErrNone
+		return '0'
+	})
 }
 
 // AngleOfSequence returns the angle of s, and ErrNone. Errors: ErrState if s has a `*`.
@@ -222,10 +215,7 @@ func LetterAt(s Sequence, k int64) (string, int64) {
 	if k < 0 || k > maxLetter {
 		return "", ErrRange
 	}
-	if k < int64(len(s.Pre)) {
-		return string(s.Pre[k]), ErrNone
-	}
-	return string(s.Per[(k-int64(len(s.Pre)))%int64(len(s.Per))]), ErrNone
+	return string(letterByNumber(s, k)), ErrNone
 }
 
 // ShiftSequence returns the shifted sequence, and ErrNone.
@@ -339,6 +329,12 @@ func doubled(a Angle) Angle {
 	return reducedAngle(2*a.Num, a.Den)
 }
 
+// bothHalves returns the halves of an angle, the smaller one first. They are no angles if their Den
+// is too great.
+func bothHalves(a Angle) (Angle, Angle) {
+	return reducedAngle(a.Num, 2*a.Den), reducedAngle(a.Num+a.Den, 2*a.Den)
+}
+
 // doublings gives out a, its double, the double of that, and so on, without an end.
 func doublings(a Angle) iter.Seq[Angle] {
 	return func(yield func(Angle) bool) {
@@ -368,6 +364,28 @@ func orbitAndPreperiod(a Angle) ([]Angle, int64, int64) {
 		orbit = append(orbit, x)
 	}
 	return orbit, preperiod, ErrNone
+}
+
+// sequenceAlongOrbit returns the sequence of the letters of a, its double, the double of that, and
+// so on, and ErrNone, or the errors of OrbitOf.
+func sequenceAlongOrbit(a Angle, letterOf func(Angle) byte) (Sequence, int64) {
+	orbit, preperiod, code := orbitAndPreperiod(a)
+	if code != ErrNone {
+		return Sequence{}, code
+	}
+	letters := make([]byte, len(orbit))
+	for i, x := range orbit {
+		letters[i] = letterOf(x)
+	}
+	return canonicalSequence(string(letters[:preperiod]), string(letters[preperiod:])), ErrNone
+}
+
+// letterByNumber returns the letter of a sequence with the number k, counted from 0.
+func letterByNumber(s Sequence, k int64) byte {
+	if k < int64(len(s.Pre)) {
+		return s.Pre[k]
+	}
+	return s.Per[(k-int64(len(s.Pre)))%int64(len(s.Per))]
 }
 
 // hasOnlyLetters reports whether all bytes of a word are letters of sequences.

@@ -157,6 +157,100 @@ func letterByHand(pre, per string, k int) string {
 	return (pre + strings.Repeat(per, k+1))[k : k+1]
 }
 
+// lettersByHand returns the first n letters of a sequence.
+func lettersByHand(s impl.Sequence, n int) string {
+	return (s.Pre + strings.Repeat(s.Per, n))[:n]
+}
+
+// kneadingLetterByNumbers returns the letter of x for t, found without halves and arcs: twice x is
+// held against t and t + 1.
+func kneadingLetterByNumbers(x, t impl.Angle) string {
+	twice, least, greatest := 2*x.Num*t.Den, t.Num*x.Den, (t.Num+t.Den)*x.Den
+	switch {
+	case twice == least || twice == greatest:
+		return "*"
+	case least < twice && twice < greatest:
+		return "1"
+	}
+	return "0"
+}
+
+// rhoByHand returns rho of k by looking at one letter after the other, or 0 if there is none:
+// behind its Pre a sequence is periodic, and so is what is found for all later letters.
+func rhoByHand(s impl.Sequence, k int) int {
+	last := k + len(s.Pre) + 2*len(s.Per)
+	letters := lettersByHand(s, last)
+	for j := k + 1; j <= last; j++ {
+		if letters[j-1] != letters[j-k-1] {
+			return j
+		}
+	}
+	return 0
+}
+
+// rhoListByHand returns the first n numbers of the list that begins with k, in which each number is
+// followed by rho of it.
+func rhoListByHand(s impl.Sequence, k, n int) []int64 {
+	list := []int64{}
+	for ; k > 0 && len(list) < n; k = rhoByHand(s, k) {
+		list = append(list, int64(k))
+	}
+	return list
+}
+
+// failsByHand reports whether a star-periodic sequence fails for m, condition by condition.
+func failsByHand(s impl.Sequence, m int) bool {
+	inAddress := slices.Contains(rhoListByHand(s, 1, 100), int64(m))
+	divisorsStay := true
+	for k := 1; k < m; k++ {
+		if m%k == 0 && rhoByHand(s, k) > m {
+			divisorsStay = false
+		}
+	}
+	r := rhoByHand(s, m) % m
+	if r == 0 {
+		r = m
+	}
+	return !inAddress && divisorsStay && slices.Contains(rhoListByHand(s, r, 100), int64(m))
+}
+
+// starSequences returns all star-periodic sequences of the period n, in lexicographic order of
+// their Pers.
+func starSequences(n int) []impl.Sequence {
+	if n == 1 {
+		return []impl.Sequence{sequence("", "*")}
+	}
+	list := []impl.Sequence{}
+	for _, word := range words("01", n-2, n-2) {
+		list = append(list, sequence("", "1"+word+"*"))
+	}
+	return list
+}
+
+// notStarPeriodic returns sequences that are not star-periodic, each for a reason of its own.
+func notStarPeriodic() []impl.Sequence {
+	zeros := strings.Repeat("0", 62)
+	return []impl.Sequence{
+		sequence("", "1"), sequence("", "0"), sequence("", "10"), sequence("", "0*"), sequence("", "01*"),
+		sequence("", "*1"), sequence("", "*0*"), sequence("", "1**"), sequence("", "1*1*1"), sequence("", "1*0*"),
+		sequence("1", "*"), sequence("1", "0*"), sequence("0", "1*"), sequence("0", "11*"), sequence("*", "1"),
+		sequence("11", "10*"), sequence("", "11*1"), sequence("", "0"+zeros+"*"), sequence("1", zeros+"*"),
+		sequence("", "1*"+zeros[1:]+"*"), sequence("", "1"+zeros+"1"),
+	}
+}
+
+// kneadingAngles returns all angles with the preperiod 0 and the period n, found without the
+// program.
+func kneadingAngles(n int64) []impl.Angle {
+	list := []impl.Angle{}
+	for num := range int64(1)<<n - 1 {
+		if _, period := orbitByNumbers(num, 1<<n-1); period == n {
+			list = append(list, reduced(num, 1<<n-1))
+		}
+	}
+	return list
+}
+
 func checkAngle(t *testing.T, what string, got impl.Angle, code int64, want impl.Angle, wantCode int64) {
 	t.Helper()
 	if got != want || code != wantCode {
