@@ -133,9 +133,7 @@ func DistanceOf(a Angle, b Angle) (Angle, int64) {
 	if !areAngles(a, b) {
 		return Angle{}, ErrInvalid
 	}
-	num, den := b.Num*a.Den-a.Num*b.Den, a.Den*b.Den
-	forward, back := reducedAngle(num, den), reducedAngle(-num, den)
-	return limitedAngle(slices.MinFunc([]Angle{forward, back}, compareAngles))
+	return limitedAngle(distanceBetween(a, b))
 }
 
 // SortAngles returns all angles of a list in ascending order, each once, and ErrNone.
@@ -313,6 +311,13 @@ func commonDivisor[T int64 | uint64](a T, b T) T {
 // compareAngles orders angles by their sizes.
 func compareAngles(a Angle, b Angle) int {
 	return cmp.Compare(a.Num*b.Den, b.Num*a.Den)
+}
+
+// distanceBetween returns the distance of two angles. It is no angle if its Den is too great.
+func distanceBetween(a Angle, b Angle) Angle {
+	num, den := b.Num*a.Den-a.Num*b.Den, a.Den*b.Den
+	forward, back := reducedAngle(num, den), reducedAngle(-num, den)
+	return slices.MinFunc([]Angle{forward, back}, compareAngles)
 }
 
 // isInArc reports whether x is in the arc from a to b, for different angles a and b.
