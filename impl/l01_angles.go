@@ -315,12 +315,15 @@ func compareAngles(a Angle, b Angle) int {
 
 // distanceBetween returns the distance of two angles. It is no angle if its Den is too great.
 func distanceBetween(a Angle, b Angle) Angle {
-	num, den := b.Num*a.Den-a.Num*b.Den, a.Den*b.Den
-	forward, back := reducedAngle(num, den), reducedAngle(-num, den)
-	return slices.MinFunc([]Angle{forward, back}, compareAngles)
+	return slices.MinFunc([]Angle{wayForward(a, b), wayForward(b, a)}, compareAngles)
 }
 
-// isInArc reports whether x is in the arc from a to b, for different angles a and b.
+// wayForward returns the part of a turn from a forward to b. It is no angle if its Den is too great.
+func wayForward(a Angle, b Angle) Angle {
+	return reducedAngle(b.Num*a.Den-a.Num*b.Den, a.Den*b.Den)
+}
+
+// isInArc reports whether x is in the arc from a to b. For equal angles a and b, all others are.
 func isInArc(x Angle, a Angle, b Angle) bool {
 	behindA, aheadOfB := compareAngles(a, x) < 0, compareAngles(x, b) < 0
 	if compareAngles(a, b) < 0 {
