@@ -151,7 +151,7 @@ func TestEdgesGrowLikePairsOfPoints(t *testing.T) {
 		if code != impl.ErrNone {
 			t.Fatalf("EdgeMatrix(%q): code %d", v, code)
 		}
-		got, want := growthOf(matrix), growthOf(pairMatrixByHand(pair.Lower, len(v.Per)))
+		got, want := growthOf(matrix), growthOf(pairMatrixByHand(pair.Lower))
 		if math.Abs(got-want) > 0.001 {
 			t.Errorf("the edges of the tree of %q grow by %f, the pairs of %v by %f", v, got, pair.Lower, want)
 		}

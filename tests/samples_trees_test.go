@@ -229,40 +229,6 @@ func lotWords(count int, least, most uint64) []string {
 	return list
 }
 
-// pairMatrixByHand returns the matrix of the pairs of points of the orbit of an angle with the
-// preperiod 0 and a period: a pair leads to that of its doubles, unless the angle comes between.
-func pairMatrixByHand(a impl.Angle, period int) [][]int64 {
-	orbit := []impl.Angle{a}
-	for len(orbit) < period {
-		last := orbit[len(orbit)-1]
-		orbit = append(orbit, reduced(2*last.Num, last.Den))
-	}
-	numbers, count := map[[2]int]int{}, 0
-	for i := range period {
-		for j := range i {
-			numbers[[2]int{i, j}], numbers[[2]int{j, i}] = count, count
-			count++
-		}
-	}
-	matrix := make([][]int64, count)
-	for i := range period {
-		for j := range i {
-			row := make([]int64, count)
-			targets := [][2]int{{(i + 1) % period, (j + 1) % period}}
-			if letters := kneadingLetterByNumbers(orbit[i], a) + kneadingLetterByNumbers(orbit[j], a); letters == "01" || letters == "10" {
-				targets = [][2]int{{(i + 1) % period, 0}, {(j + 1) % period, 0}}
-			}
-			for _, target := range targets {
-				if target[0] != target[1] {
-					row[numbers[target]]++
-				}
-			}
-			matrix[numbers[[2]int{i, j}]] = row
-		}
-	}
-	return matrix
-}
-
 // growthOf returns by which factor the sums of the powers of a matrix grow in the end. It looks at
 // the power 2^20 of the matrix with the unit matrix added, which grows by 1 more and without waves.
 func growthOf(matrix [][]int64) float64 {
