@@ -247,7 +247,8 @@ func TestResultsOfChapter6AreNew(t *testing.T) {
 func checkRowsAreApart(t *testing.T, what string, got, want [][]int64) {
 	t.Helper()
 	for i := range got {
-		overwrite(got[i], -1)
+		// The room behind a list may not be that of another one either.
+		overwrite(got[i][:cap(got[i])], -1)
 		for j := i + 1; j < len(got); j++ {
 			checkNumbers(t, fmt.Sprintf("%s with the list %d written into: the list %d", what, i, j), got[j], impl.ErrNone, want[j], impl.ErrNone)
 		}
